@@ -1,0 +1,1 @@
+"""Places that pipes lead to, told exactly by whole numbers and roots of two."""
