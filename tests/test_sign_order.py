@@ -2,38 +2,16 @@
 
 import ast
 import contextlib
-import decimal
 import inspect
 import io
 import pathlib
 import unittest
 
+from helper import HIGH, LOW, near_pairs, sign_by_decimals
 from pipereach import desk
 
 PACKAGE = pathlib.Path(desk.__file__).parent
-LOW = -9223372036854775808
-HIGH = 9223372036854775807
 EDGES = (LOW, LOW + 1, -2, -1, 0, 1, 2, HIGH - 1, HIGH)
-
-
-def told_by_decimals(p, q):
-    # A length other than 0 with p and q below 2^65 in size is above 10^-21 in size: 100 digits tell it apart.
-    with decimal.localcontext() as context:
-        context.prec = 100
-        number = decimal.Decimal(p) + decimal.Decimal(q) * decimal.Decimal(2).sqrt()
-        return (number > 0) - (number < 0)
-
-
-def near_pairs(limit):
-    """All (p, q, s), p and q above 0 and p at most limit, with p*p - 2*q*q of 1, -1, 2 or -2; s is its sign."""
-    found = []
-    p, q, s = 1, 1, -1
-    while p <= limit:
-        found.append((p, q, s))
-        if 2 * q <= limit:
-            found.append((2 * q, p, -s))
-        p, q, s = p + 2 * q, p + q, -s
-    return found
 
 
 class NearPairs(unittest.TestCase):
@@ -101,7 +79,7 @@ class Sign(unittest.TestCase):
         self.check(-1, HIGH, 1)
         for p in EDGES:
             for q in EDGES:
-                self.check(p, q, told_by_decimals(p, q))
+                self.check(p, q, sign_by_decimals(p, q))
 
     def test_nearest_to_zero_with_an_end_of_the_range(self):
         # 2^63 less 1, over r, lies between 6521908912666391105 and ..106; 2^63 over r between ..106 and ..107.
@@ -125,7 +103,7 @@ class Sign(unittest.TestCase):
     def test_all_small_ones(self):
         for p in range(-40, 41):
             for q in range(-40, 41):
-                self.check(p, q, told_by_decimals(p, q))
+                self.check(p, q, sign_by_decimals(p, q))
 
 
 class Order(unittest.TestCase):
@@ -160,7 +138,7 @@ class Order(unittest.TestCase):
         lengths = [(p, q) for p in EDGES for q in EDGES]
         for a in lengths:
             for b in lengths:
-                self.check(a, b, told_by_decimals(a[0] - b[0], a[1] - b[1]))
+                self.check(a, b, sign_by_decimals(a[0] - b[0], a[1] - b[1]))
 
     def test_very_near_to_one_another(self):
         for p, q, s in near_pairs(HIGH):
