@@ -2,6 +2,17 @@
 
 MOST = 1099511627776
 MILLIMETRE = 2000
+FARTHEST = 1000000000
+
+DIRECTIONS = (
+    (1, 0, 0), (-1, 0, 0), (0, 1, 0), (0, -1, 0), (0, 0, 1), (0, 0, -1),
+    (1, 1, 0), (1, -1, 0), (-1, 1, 0), (-1, -1, 0),
+    (1, 0, 1), (1, 0, -1), (-1, 0, 1), (-1, 0, -1),
+    (0, 1, 1), (0, 1, -1), (0, -1, 1), (0, -1, -1),
+)
+
+# The degrees of a turn, by four times the square of its cosine with the cosine's sign: these are whole.
+DEGREES = {4: 0, 2: 45, 1: 60, 0: 90, -1: 120, -2: 135, -4: 180}
 
 
 def sign_of(p, q):
@@ -55,6 +66,42 @@ def nearest(p, q, unit):
     return found
 
 
+def is_direction(the_dir):
+    return 0 <= the_dir < len(DIRECTIONS)
+
+
+def dot(steps, others):
+    return sum([step * other for step, other in zip(steps, others)])
+
+
+def turn_of(steps, others):
+    product = dot(steps, others)
+    return DEGREES[4 * product * abs(product) // (dot(steps, steps) * dot(others, others))]
+
+
+def place_may_be(place):
+    return all([length_may_be(length[0], length[1]) for length in place])
+
+
+def stride_of(steps, n):
+    """By what length each axis of the steps changes when n millimetres are gone."""
+    if dot(steps, steps) == 1:
+        return (MILLIMETRE * n, 0)
+    # By two axes each goes the n millimetres over r, and 2 over r is r.
+    return (0, MILLIMETRE // 2 * n)
+
+
+def moved(place, steps, stride):
+    return tuple([(length[0] + step * stride[0], length[1] + step * stride[1]) for length, step in zip(place, steps)])
+
+
+def numbers_of(place):
+    numbers = []
+    for length in place:
+        numbers.extend(length)
+    return numbers
+
+
 def sign(p, q):
     return [0, sign_of(p, q)]
 
@@ -78,3 +125,22 @@ def mm(p, q, way):
     if way == 1:
         return [0, rounded_up(p, q, MILLIMETRE)]
     return [0, nearest(p, q, MILLIMETRE)]
+
+
+def turn(d, e):
+    if not is_direction(d) or not is_direction(e):
+        return [-1]
+    return [0, turn_of(DIRECTIONS[d], DIRECTIONS[e])]
+
+
+def go(xp, xq, yp, yq, zp, zq, the_dir, n):
+    if not is_direction(the_dir) or abs(n) > FARTHEST:
+        return [-1]
+    place = ((xp, xq), (yp, yq), (zp, zq))
+    if not place_may_be(place):
+        return [-2]
+    steps = DIRECTIONS[the_dir]
+    reached = moved(place, steps, stride_of(steps, n))
+    if not place_may_be(reached):
+        return [-3]
+    return [0] + numbers_of(reached)
