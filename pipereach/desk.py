@@ -251,6 +251,34 @@ def square_apart(one, other):
     return lowest_terms(twice_square_from_ends(one, other), 2)
 
 
+def twice_of(place):
+    return tuple([times(length, 2) for length in place])
+
+
+def twice_crossing(one, other):
+    """Twice the place that two pipes which touch and aren't parallel have in common."""
+    normal = normal_of(one, other)
+    weight = dot(normal, normal)
+    # An axis that but one of the pipes goes tells how often, and whole. If they go the same two axes,
+    # the half of a whole sum does; so taken twice nothing is left over here.
+    steps = times(steps_to_nearest(one, other), 2)
+    often = (steps[0] // weight, steps[1] // weight)
+    return moved(twice_of(start_of(one)), steps_of(one), often)
+
+
+def shared_by_parallel(one, other):
+    """What meet answers of two pipes that touch and are parallel, so lie on one line."""
+    ends = (start_of(other), end_of(other))
+    if dot(steps_of(one), steps_of(other)) < 0:
+        ends = (end_of(other), start_of(other))
+    # Walked the same way, they have but one place in common if the one ends where the other begins.
+    if end_of(one) == ends[0]:
+        return numbers_of(twice_of(ends[0]))
+    if start_of(one) == ends[1]:
+        return numbers_of(twice_of(ends[1]))
+    return [2]
+
+
 def sign(p, q):
     return [0, sign_of(p, q)]
 
@@ -308,3 +336,23 @@ def how(one, other):
     if not pipe_may_be(one) or not pipe_may_be(other):
         return [-2]
     return [0] + square_apart(one, other)
+
+
+def clash(one, other):
+    if not pipe_may_be(one) or not pipe_may_be(other):
+        return [-2]
+    square = square_apart(one, other)
+    radii = MILLIMETRE * (one[8] + other[8])
+    if is_below((square[0], square[1]), (square[2] * radii * radii, 0)):
+        return [0, 1]
+    return [0, 0]
+
+
+def meet(one, other):
+    if not pipe_may_be(one) or not pipe_may_be(other):
+        return [-2]
+    if square_apart(one, other) != [0, 0, 1]:
+        return [0, 0]
+    if are_parallel(one, other):
+        return [0] + shared_by_parallel(one, other)
+    return [0] + numbers_of(twice_crossing(one, other))
