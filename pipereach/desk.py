@@ -259,8 +259,8 @@ def twice_crossing(one, other):
     """Twice the place that two pipes which touch and aren't parallel have in common."""
     normal = normal_of(one, other)
     weight = dot(normal, normal)
-    # An axis that but one of the pipes goes tells how often, and whole. If they go the same two axes,
-    # the half of a whole sum does; so taken twice nothing is left over here.
+    # An axis that only one of the pipes goes tells how often it goes its steps, whole, and with that the other.
+    # If they go the same two axes, half of a whole sum tells it. So taken twice nothing is left over here.
     steps = times(steps_to_nearest(one, other), 2)
     often = (steps[0] // weight, steps[1] // weight)
     return moved(twice_of(start_of(one)), steps_of(one), often)

@@ -175,6 +175,8 @@ class Watched(list):
 GOOD_PIPE = [5, -6, 7, -8, 9, -10, 6, 3, 20]
 WRONG_NUMBERS = [(index, wrong) for index in range(6) for wrong in (MOST + 1, -MOST - 1, HIGH, LOW)]
 WRONG_NUMBERS += [(6, 18), (6, 19), (6, LARGEST), (7, 0), (7, 100001), (7, LARGEST), (8, 2001), (8, LARGEST)]
+# A row of the interface hands over any of the nine numbers below 0 too; it's then none from 0, or from 1, on.
+WRONG_NUMBERS += [(6, -1), (6, LOW), (7, -1), (7, LOW), (8, -1), (8, LOW), (6, HIGH), (7, HIGH), (8, HIGH)]
 
 
 def pipes_that_may_not_be():

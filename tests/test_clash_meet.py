@@ -85,9 +85,11 @@ def rolled_pairs(seed, times):
     rolls = random.Random(seed)
     for _ in range(times):
         spread = rolls.choice((0, 1, 2, 3000, 10 ** 6))
+        longest = rolls.choice((3, 1000))
+        widest = rolls.choice((2, 2000))
         yield [
             [rolls.randint(-spread, spread) for _ in range(6)]
-            + [rolls.randrange(18), rolls.randint(1, rolls.choice((3, 1000))), rolls.randint(0, rolls.choice((2, 2000)))]
+            + [rolls.randrange(18), rolls.randint(1, longest), rolls.randint(0, widest)]
             for _ in range(2)
         ]
 
