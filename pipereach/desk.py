@@ -52,7 +52,7 @@ def floor_of(p, q):
 
 
 def rounded_down(p, q, unit):
-    # Between two multiples of a whole unit lie no others, so the part behind the point may go first.
+    # A multiple of the unit is whole: it is not above the length just if it is not above the length's floor.
     return floor_of(p, q) // unit
 
 
